@@ -920,6 +920,18 @@ func TestGetOfPut(t *testing.T) {
 	}
 }
 
+func TestGetOfPutEveryCount(t *testing.T) {
+	for _, c := range codes() {
+		for n := 1; n <= most(c); n++ {
+			a := request(c, 65536-n, n)
+			b, _ := ask.Put(a)
+			if g, errno := ask.Get(b); !same(g, a) || errno != api.OK || len(b) > api.MaxPdu {
+				t.Fatalf("%+v comes back as %+v, %d, of %d bytes", a, g, errno, len(b))
+			}
+		}
+	}
+}
+
 func TestPutOfGet(t *testing.T) {
 	told := 0
 	for _, b := range spoilt(40000) {
