@@ -734,7 +734,7 @@ func turned(t *testing.T, b []byte, size, from int, pattern uint32) {
 	turn(b, from, pattern)
 }
 
-// patterns are bits within 32 side by side of which the lowest is one, and which are at most so wide: one, two and three of them, runs, all that are narrow, and some others.
+// patterns are bits within 32 side by side that are at most so wide: one, two and three of them, runs, all that are narrow, and some others.
 func patterns(wide int) []uint32 {
 	var out []uint32
 	for i := range 32 {
