@@ -157,7 +157,7 @@ func TestKeysInSeveralOrders(t *testing.T) {
 				depths := map[int]bool{}
 				for i, k := range keys {
 					p.put(k, i)
-					if n := len(p.r); n <= 4*degree+2 || n <= 550 && i%4 == 0 || i%983 == 0 {
+					if len(p.r) <= 550 || i%983 == 0 {
 						depths[deep(p.nodes())] = true
 					}
 				}
