@@ -12,9 +12,8 @@ import (
 
 // The files' names. That of the last segment has just as many bytes as a name may have.
 const (
-	headFile    = "head"
-	newHeadFile = "head.new"
-	logPrefix   = "log-"
+	headFile  = "head"
+	logPrefix = "log-"
 )
 
 // The segments' N.
@@ -64,29 +63,6 @@ func readHead(d *device.Device) (segment, api.Errno) {
 		return segment{}, api.ErrHead
 	}
 	return segment{n: int(n), begin: int(begin)}, api.OK
-}
-
-// replaceHead lets the head name another first segment. It is made aside and lasts before it gets its name, so that there is always a whole one.
-func replaceHead(d *device.Device, first segment) api.Errno {
-	if errno := removeNewHead(d); errno != api.OK {
-		return errno
-	}
-	if errno := d.Append(newHeadFile, first.head()); errno != api.OK {
-		return errno
-	}
-	if errno := d.Sync(newHeadFile); errno != api.OK {
-		return errno
-	}
-	return d.Rename(newHeadFile, headFile)
-}
-
-// removeNewHead removes a head that was being made, if there is one.
-func removeNewHead(d *device.Device) api.Errno {
-	errno := d.Remove(newHeadFile)
-	if errno == api.ErrNone {
-		return api.OK
-	}
-	return errno
 }
 
 // head is the head's bytes that name a segment as the first one.
